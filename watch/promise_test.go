@@ -14,7 +14,7 @@ import (
 )
 
 // rounds is how many books each test of a property tries.
-const rounds = 200
+const rounds = 120
 
 // answers are all that can be asked of a book's stations and minutes: In, Shot and Quarrel of each post, and the rest once.
 type answers struct {
@@ -285,7 +285,7 @@ func TestTrueShoal(t *testing.T) {
 func TestOneCryMore(t *testing.T) {
 	r := chance(6)
 	var kept, moved, sharper int
-	for range rounds / 2 {
+	for range rounds {
 		b, x := anyTrueBook(r)
 		if len(b.Cry.Cries) == 8 {
 			b.Cry.Cries = b.Cry.Cries[:7]
