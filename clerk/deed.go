@@ -1,10 +1,9 @@
 package clerk
 
-// What can stand behind the word of a line.
+// What can stand behind the word of a line, where it is not just a number (n).
 const (
-	asNumber = 'n' // a number
-	asCount  = 'c' // a number, or a hyphen
-	asText   = 't' // anything that is not empty
+	asCount = 'c' // a number, or a hyphen
+	asText  = 't' // anything that is not empty
 )
 
 // deed is what a line does: what must stand behind its word, which book must be true behind it (none, if it only asks), and what tells its answer.
